@@ -23,6 +23,24 @@ func TestNoSeries(t *testing.T) { // 16.1, 16.2, 16.3
 	}
 	mustHave(t, x.Copy(), words{})
 	mustHave(t, x, words{})
+	mustCopyNone(t, x)
+	mustAdd(t, x, words{}, 5, labels("a", "x"))
+	mustDrop(t, x, words{5: labels("a", "x")}, 5)
+	mustCopyNone(t, x) // its series went, but New made it
+	mustHave(t, x, words{})
+}
+
+// mustCopyNone asks that the copy of x, which has no series, is an index to which one may be added, and x not the worse for it.
+func mustCopyNone(t *testing.T, x *Index) {
+	t.Helper()
+	y, w := x.Copy(), words{}
+	if y == nil {
+		t.Fatal("Copy: no index")
+	}
+	mustHave(t, y, w)
+	mustAdd(t, y, w, 1, labels("a", "x"))
+	mustHave(t, y, w)
+	mustHave(t, x, words{})
 }
 
 func TestByHand(t *testing.T) { // 16.1, 16.2
